@@ -420,6 +420,40 @@ func TestWrongLengthsTogether(t *testing.T) {
 	}
 }
 
+// P10, of many blocks: none, one, and as many as a text can have, each as
+// Encrypt has it, the same ones twice among them.
+func TestEncryptAll(t *testing.T) {
+	blocks := slices.Concat(edges(16), chance(100, 16), edges(16)[:3])
+	for _, key := range []string{chance(1, 16)[0], chance(1, 32)[0], strings.Repeat("\x00", 32)} {
+		right := ""
+		for n := range len(blocks) + 1 {
+			all := strings.Join(blocks[:n], "")
+			got, e := EncryptAll(key, all)
+			want(t, "EncryptAll", got, e, right, api.OK, key, all)
+			if n < len(blocks) {
+				one, _ := Encrypt(key, blocks[n])
+				right += one
+			}
+		}
+	}
+}
+
+// P9, of many blocks: wrong keys, and a last block that is not whole.
+func TestWrongEncryptAll(t *testing.T) {
+	for _, key := range wrongTexts(16, 32) {
+		for _, blocks := range []string{"", "a", chance(1, 16)[0], chance(1, 32)[0]} {
+			got, e := EncryptAll(key, blocks)
+			want(t, "EncryptAll", got, e, "", api.ErrArg, key, blocks)
+		}
+	}
+	for n := range 100 {
+		if n%16 != 0 {
+			got, e := EncryptAll(chance(1, 32)[0], chance(1, n)[0])
+			want(t, "EncryptAll", got, e, "", api.ErrArg, chance(1, n)[0])
+		}
+	}
+}
+
 // P1, P9 and P10 for whatever comes.
 func FuzzAnything(f *testing.F) {
 	for _, key := range keys() {
@@ -449,6 +483,8 @@ func calls(key, block string) []string {
 	keep(Expand(key))
 	keep(Encrypt(key, block))
 	keep(Decrypt(key, block))
+	keep(EncryptAll(key, block+block))
+	keep(EncryptAll(key, block))
 	return list
 }
 
